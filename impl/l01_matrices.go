@@ -33,7 +33,10 @@ type Matrix [4]int64
 // Fraction is f[0] / f[1]; infinity is 1/0.
 type Fraction [2]int64
 
-var identity = Matrix{1, 0, 0, 1}
+var (
+	identity = Matrix{1, 0, 0, 1}
+	matrixS  = Matrix{0, -1, 1, 0}
+)
 
 // IsMatrix reports whether m has numbers within MaxEntry and the determinant 1.
 func IsMatrix(m Matrix) bool {
@@ -349,7 +352,7 @@ func firstPowers(m Matrix) map[Matrix]int64 {
 
 func namedMatrices() map[string]Matrix {
 	return map[string]Matrix{
-		"S": {0, -1, 1, 0},
+		"S": matrixS,
 		"T": {1, 1, 0, 1},
 		"L": {1, 0, 1, 1},
 		"U": {1, -1, 1, 0},
