@@ -132,3 +132,31 @@ func wantNoText(t *testing.T, what string, text string, code int64, want int64) 
 		t.Errorf("%s = %q, %d, not the error %d", what, text, code, want)
 	}
 }
+
+func wantAnswer(t *testing.T, what string, answer bool, code int64, want bool) {
+	t.Helper()
+	if answer != want || code != impl.ErrNone {
+		t.Errorf("%s = %t, %d, not %t", what, answer, code, want)
+	}
+}
+
+func wantNoAnswer(t *testing.T, what string, answer bool, code int64, want int64) {
+	t.Helper()
+	if answer || code != want {
+		t.Errorf("%s = %t, %d, not the error %d", what, answer, code, want)
+	}
+}
+
+func wantFractions(t *testing.T, what string, list []impl.Fraction, code int64, want []impl.Fraction) {
+	t.Helper()
+	if !slices.Equal(list, want) || code != impl.ErrNone {
+		t.Errorf("%s = %v, %d, not %v", what, list, code, want)
+	}
+}
+
+func wantNoFractions(t *testing.T, what string, list []impl.Fraction, code int64, want int64) {
+	t.Helper()
+	if len(list) != 0 || code != want {
+		t.Errorf("%s = %v, %d, not the error %d", what, list, code, want)
+	}
+}
