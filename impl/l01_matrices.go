@@ -192,7 +192,7 @@ func RestsOf(m Matrix, n int64) ([]int64, int64) {
 	}
 	rests := make([]int64, 0, len(m))
 	for _, x := range m {
-		rests = append(rests, (x%n+n)%n)
+		rests = append(rests, restOf(x, n))
 	}
 	return rests, ErrNone
 }
@@ -383,6 +383,11 @@ func commonDivisor(x, y int64) int64 {
 		x, y = y, x%y
 	}
 	return absolute(x)
+}
+
+// restOf is in 0..n - 1, also where Go's rest is less than 0.
+func restOf(x, n int64) int64 {
+	return (x%n + n) % n
 }
 
 func absolute(x int64) int64 {
