@@ -429,8 +429,7 @@ func joinNumbers(list []int64, separator string) string {
 	return strings.Join(words, separator)
 }
 
-// splitNumbers reads just count numbers. Each one must be written as joinNumbers writes it, which
-// strconv alone would not ask for: it takes +1, 01 and -0, too.
+// splitNumbers reads just count numbers.
 func splitNumbers(text, separator string, count int) ([]int64, bool) {
 	words := strings.SplitN(text, separator, count+1)
 	if len(words) != count {
@@ -438,11 +437,18 @@ func splitNumbers(text, separator string, count int) ([]int64, bool) {
 	}
 	numbers := make([]int64, 0, count)
 	for _, word := range words {
-		x, err := strconv.ParseInt(word, 10, 64)
-		if err != nil || strconv.FormatInt(x, 10) != word {
+		x, ok := parseNumber(word)
+		if !ok {
 			return nil, false
 		}
 		numbers = append(numbers, x)
 	}
 	return numbers, true
+}
+
+// parseNumber takes a number just as joinNumbers writes it, which strconv alone would not ask for: it
+// takes +1, 01 and -0, too.
+func parseNumber(word string) (int64, bool) {
+	x, err := strconv.ParseInt(word, 10, 64)
+	return x, err == nil && strconv.FormatInt(x, 10) == word
 }
